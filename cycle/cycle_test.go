@@ -427,9 +427,9 @@ func TestP102ParseOfWrongTexts(t *testing.T) {
 }
 
 func TestP102ParseOfAllShortTexts(t *testing.T) {
-	bytes := "cawr09af8 gACFx`:/\x00\n\xff"
+	bytes := "cawr09f8 gACFx`:/\x00\n\xff"
 	texts := []string{""}
-	for range 4 {
+	for range 5 {
 		var longer []string
 		for _, s := range texts {
 			expectPlain(t, s)
