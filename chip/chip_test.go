@@ -469,23 +469,6 @@ func TestP141CutTwice(t *testing.T) {
 	b.lost(api.Cycle{Kind: api.Address})
 }
 
-// TestP141CutWhileOff sets a Cut while the power is off: it counts from the
-// first cycle on for which the power is on again.
-func TestP141CutWhileOff(t *testing.T) {
-	b := on(t, quiet())
-	b.lose()
-	b.c.Cut(1)
-	b.lost(api.Cycle{Kind: api.Read})
-	b.lost(api.Cycle{Kind: api.Read})
-	b.c.Power()
-	b.run("rff")
-	b.lost(api.Cycle{Kind: api.Read})
-	b.c.Cut(0)
-	b.c.Cut(-1)
-	b.c.Power()
-	b.run("rff rff")
-}
-
 // longer is a text with every kind of work, and every way to wait for it, for
 // a chip of the example.
 const longer = `cff c70 r00 r00 r00 c90 a00 r00 r00 r00 r00 r00
@@ -722,6 +705,48 @@ func TestP142NothingChangesWhileThePowerIsOff(t *testing.T) {
 			w.text("r00 c00 r00 r00 c70 r00 r00")
 			w.text(longer)
 			w.same()
+		}
+	}
+}
+
+// TestP142CutWhileOff sets Cuts while the power is off, which was lost by the
+// script or by another Cut: none of them counts when the power is on again.
+func TestP142CutWhileOff(t *testing.T) {
+	for _, lost := range []int{0, 3} {
+		for _, byScript := range []bool{true, false} {
+			for _, cuts := range [][]int{{0}, {1}, {2}, {7}, {-1}, {math.MinInt}, {math.MaxInt}, {0, 5}, {5, -1}, {-1, 0}} {
+				s := quiet()
+				if byScript {
+					s.Cut = lost
+				}
+				b := on(t, s)
+				if !byScript {
+					b.c.Cut(lost)
+				}
+				for range lost {
+					b.run("rff")
+				}
+				b.lost(api.Cycle{Kind: api.Read})
+				for _, n := range cuts {
+					b.c.Cut(n)
+					b.lost(api.Cycle{Kind: api.Command, B: 0x70})
+				}
+				b.c.Power()
+				for range 100 {
+					b.run("rff")
+				}
+				b.counts(lost+100, 0)
+				// With the power on, a Cut counts, also beside Power.
+				b.c.Cut(2)
+				b.c.Power()
+				b.run("rff rff")
+				b.lost(api.Cycle{Kind: api.Read})
+				b.c.Cut(0)
+				b.c.Power()
+				b.c.Cut(1)
+				b.run("rff")
+				b.lost(api.Cycle{Kind: api.Read})
+			}
 		}
 	}
 }

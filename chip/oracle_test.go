@@ -478,10 +478,12 @@ func (w *twins) text(s string) {
 	w.do(cycles(w.t, s)...)
 }
 
-// cut sets the Cut of both.
+// cut sets the Cut of both, if the power is on.
 func (w *twins) cut(n int) {
 	w.c.Cut(n)
-	w.o.cut = n
+	if w.o.on {
+		w.o.cut = n
+	}
 }
 
 // power switches the power of both on.
